@@ -129,6 +129,15 @@ func TestP201Scale(t *testing.T) {
 	check(t, "Scale of a nil row", Scale(9, nil), Row{})
 }
 
+func TestP201ScaleOfEachLength(t *testing.T) {
+	for n := range 40 {
+		r := drawn(n, n)
+		for _, c := range drawn(n+100, 20) {
+			check(t, "Scale", Scale(c, r), mixed(n, Row{c}, []Row{r}))
+		}
+	}
+}
+
 func TestP201ScaleIsNotCut(t *testing.T) {
 	r := drawn(5, 3000)
 	check(t, "Scale(9) of 3000 elements", Scale(9, r), mixed(3000, Row{9}, []Row{r}))
