@@ -160,3 +160,24 @@ func TestP502ParamsStayAsTheyAre(t *testing.T) {
 		t.Errorf("P502: with an answer changed, Of(16): %v, %d; want %v, 0", q, err, kept)
 	}
 }
+
+func TestIsBlock(t *testing.T) {
+	for k := -100; k <= 100; k++ {
+		for s := -10; s <= 20; s++ {
+			for h := -3; h <= 5; h++ {
+				p := Params{K: k, S: s, H: h}
+				want := k >= 1 && k <= 40 && s == 2+k/8 && h == 2
+				if got := p.IsBlock(); got != want {
+					t.Fatalf("IsBlock of %v: %v; want %v", p, got, want)
+				}
+			}
+		}
+	}
+	for _, far := range []int{math.MinInt, -1 << 32, 1 << 32, math.MaxInt} {
+		for _, p := range []Params{{K: far + 1, S: 2, H: 2}, {K: 1, S: far + 2, H: 2}, {K: 1, S: 2, H: far + 2}, {K: far, S: far, H: far}} {
+			if p.IsBlock() {
+				t.Errorf("IsBlock of %v: true", p)
+			}
+		}
+	}
+}

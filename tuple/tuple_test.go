@@ -365,3 +365,26 @@ func TestP602NewMemory(t *testing.T) {
 		}
 	}
 }
+
+// What CanBe tells of one symbol is whether it has parts; of several, whether all have; of none, whether symbol 0 has.
+func TestCanBe(t *testing.T) {
+	esis := []int{-1, 0, 1, lastEsi, api.MaxEsi, math.MinInt, math.MaxInt, 1 << 32}
+	for _, p := range []params.Params{block(t, 1), block(t, api.MaxK), {}, {K: 1, S: 2, H: 3}, {K: 41, S: 7, H: 2}} {
+		for _, j := range []int{-1, 0, 255, 256, math.MinInt, math.MaxInt, 1 << 32} {
+			has := func(esi int) bool { return len(Parts(p, j, esi)) > 0 }
+			if got := CanBe(p, j); got != has(0) {
+				t.Errorf("CanBe(%v, %d): %v; want %v", p, j, got, has(0))
+			}
+			for _, a := range esis {
+				if got := CanBe(p, j, a); got != has(a) {
+					t.Errorf("CanBe(%v, %d, %d): %v; want %v", p, j, a, got, has(a))
+				}
+				for _, b := range esis {
+					if got, want := CanBe(p, j, a, b, 7), has(a) && has(b) && has(7); got != want {
+						t.Errorf("CanBe(%v, %d, %d, %d, 7): %v; want %v", p, j, a, b, got, want)
+					}
+				}
+			}
+		}
+	}
+}
