@@ -161,3 +161,12 @@ func TestP902AskedAtOnce(t *testing.T) {
 		}
 	}
 }
+
+// For the packages below: what the source symbols' numbers are.
+func TestFirstEsis(t *testing.T) {
+	for n, want := range map[int][]int{math.MinInt: nil, -1: nil, 0: nil, 1: {0}, 4: {0, 1, 2, 3}} {
+		if got := FirstEsis(n); !slices.Equal(got, want) {
+			t.Errorf("FirstEsis(%d): %v; want %v", n, got, want)
+		}
+	}
+}
