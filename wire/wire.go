@@ -1,4 +1,4 @@
-// Package wire writes numbers as bytes, the highest first, and reads them from the beginning of bytes.
+// Package wire writes numbers as bytes, the highest first, and reads them, and pieces, from the beginning of bytes.
 package wire
 
 // Append answers b and, behind it (in its spare room, if there is any), the numbers as width bytes each; of a number that has more, the lowest.
@@ -24,16 +24,22 @@ func Of(b []byte) *Reader {
 
 // Number takes the number that the next width bytes tell; 0 if there are too few.
 func (r *Reader) Number(width int) int {
-	if r.short || len(r.left) < width {
-		r.short = true
-		return 0
-	}
 	n := 0
-	for _, b := range r.left[:width] {
+	for _, b := range r.Piece(width) {
 		n = n<<8 | int(b)
 	}
-	r.left = r.left[width:]
 	return n
+}
+
+// Piece takes the next n bytes; nothing if there are too few. They are shared with the bytes that are read.
+func (r *Reader) Piece(n int) []byte {
+	if r.short || len(r.left) < n {
+		r.short = true
+		return nil
+	}
+	piece := r.left[:n:n]
+	r.left = r.left[n:]
+	return piece
 }
 
 // Rest takes all that is left; it is shared with the bytes that are read.
@@ -43,7 +49,7 @@ func (r *Reader) Rest() []byte {
 	return rest
 }
 
-// Short tells whether a number was asked for of which there were too few bytes.
+// Short tells whether a number or a piece was asked for of which there were too few bytes.
 func (r *Reader) Short() bool {
 	return r.short
 }

@@ -78,3 +78,39 @@ func TestP1401TooFewBytesStayShort(t *testing.T) {
 		t.Error("P1401: a reader of nothing is Short, or has something")
 	}
 }
+
+func TestP2201PiecesAreTakenOneBehindTheOther(t *testing.T) {
+	b := []byte{1, 2, 3, 4, 5, 6}
+	from := Of(b)
+	for _, want := range [][]byte{{1, 2}, nil, {3}} {
+		if got := from.Piece(len(want)); !bytes.Equal(got, want) || from.Short() {
+			t.Errorf("P2201: Piece(%d) is %x, Short %v, not %x", len(want), got, from.Short(), want)
+		}
+	}
+	if got := from.Number(2); got != 4*256+5 {
+		t.Errorf("P2201: behind pieces Number(2) is %d", got)
+	}
+	// What is put behind a piece goes elsewhere.
+	if piece := append(Of(b).Piece(2), 9); len(piece) != 3 || b[2] != 3 {
+		t.Errorf("P2201: behind a piece there is room: %x", b)
+	}
+	if got := from.Piece(1); !bytes.Equal(got, []byte{6}) || from.Short() || len(from.Rest()) != 0 {
+		t.Errorf("P2201: the last piece is %x, Short %v", got, from.Short())
+	}
+}
+
+func TestP2201TooFewBytesAreNoPiece(t *testing.T) {
+	for n := range 4 {
+		from := Of([]byte{9, 9, 9}[:n])
+		if got := from.Piece(n + 1); len(got) != 0 || !from.Short() {
+			t.Errorf("P2201: Piece(%d) of %d bytes is %x, Short %v", n+1, n, got, from.Short())
+		}
+		if got := from.Piece(0); len(got) != 0 || from.Number(1) != 0 || !from.Short() {
+			t.Errorf("P2201: behind a Short one Piece(0) is %x, Short %v", got, from.Short())
+		}
+	}
+	from := Of([]byte{9, 9, 9})
+	if from.Number(4) != 0 || len(from.Piece(1)) != 0 || !from.Short() {
+		t.Error("P2201: behind a Short number there are pieces")
+	}
+}
